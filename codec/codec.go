@@ -4,6 +4,7 @@ package codec
 import (
 	"ripple/api"
 	"ripple/state"
+	"ripple/wire"
 )
 
 // The widths of numbers, in bytes.
@@ -19,7 +20,7 @@ func Encode(a []api.Atom) (string, api.Errno) {
 		return "", err
 	}
 	told := m.Tell()
-	out := appendNumber(nil, len(told), countWidth)
+	out := wire.AppendNumber(nil, len(told), countWidth)
 	for _, atom := range told {
 		out = appendAtom(out, atom)
 	}
@@ -37,21 +38,14 @@ func Decode(s string) ([]api.Atom, api.Errno) {
 }
 
 func appendAtom(out []byte, a api.Atom) []byte {
-	out = appendNumber(out, a.Type, 1)
+	out = wire.AppendNumber(out, a.Type, 1)
 	out = appendText(out, a.Key)
-	out = appendNumber(out, a.Side, 1)
-	out = appendNumber(out, a.Who, 1)
+	out = wire.AppendNumber(out, a.Side, 1)
+	out = wire.AppendNumber(out, a.Who, 1)
 	out = appendText(out, a.Elem)
-	return appendNumber(out, a.N, gradeWidth)
+	return wire.AppendNumber(out, a.N, gradeWidth)
 }
 
 func appendText(out []byte, text string) []byte {
-	return append(appendNumber(out, len(text), 1), text...)
-}
-
-func appendNumber(out []byte, n, width int) []byte {
-	for i := range width {
-		out = append(out, byte(n>>(8*(width-1-i))))
-	}
-	return out
+	return append(wire.AppendNumber(out, len(text), 1), text...)
 }

@@ -5,6 +5,7 @@ import (
 	"slices"
 	"strings"
 	"testing"
+	"unsafe"
 
 	"ripple/api"
 	"ripple/codec"
@@ -237,5 +238,19 @@ func TestP2Memory(t *testing.T) {
 	in[1].N = 9
 	if again, _ := codec.Encode(in); again == s || s != head+"\x02"+"\x01\x01a\x00\x00\x00\x00\x00\x00\x03"+"\x05\x01b\x00\x00\x00\x00\x00\x00\x01" {
 		t.Errorf("P2: Encode keeps what was handed in: %q, %q", s, again)
+	}
+}
+
+// TestP2DecodedTextsAreNew: a text that comes out is no piece of what was handed in.
+func TestP2DecodedTextsAreNew(t *testing.T) {
+	s, _ := codec.Encode([]api.Atom{{Type: api.Last, Key: "ab", N: 1, Elem: "xyz"}})
+	told, err := codec.Decode(s)
+	if err != api.OK || len(told) != 1 {
+		t.Fatalf("P8: Decode = %v, %d", told, err)
+	}
+	for i := range s {
+		if at := unsafe.StringData(s[i:]); at == unsafe.StringData(told[0].Key) || at == unsafe.StringData(told[0].Elem) {
+			t.Errorf("P2: a text of %v is a piece of the bytes", told)
+		}
 	}
 }

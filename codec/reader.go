@@ -1,48 +1,33 @@
 package codec
 
-import "ripple/api"
+import (
+	"strings"
 
-// reader: bytes that are not read yet.
-type reader struct {
-	rest string
-}
+	"ripple/api"
+	"ripple/wire"
+)
 
 // parse goes by the bytes there are, not by the number at their head, which may be far too great.
 func parse(s string) []api.Atom {
-	r := &reader{rest: s}
-	r.take(countWidth)
+	r := &wire.Reader{Rest: s}
+	r.Take(countWidth)
 	var list []api.Atom
-	for r.rest != "" {
-		list = append(list, r.atom())
+	for r.Rest != "" {
+		list = append(list, readAtom(r))
 	}
 	return list
 }
 
-func (r *reader) atom() api.Atom {
+func readAtom(r *wire.Reader) api.Atom {
 	var a api.Atom
-	a.Type = r.number(1)
-	a.Key = r.text()
-	a.Side = r.number(1)
-	a.Who = r.number(1)
-	a.Elem = r.text()
-	a.N = r.number(gradeWidth)
+	a.Type = r.Number(1)
+	a.Key = readText(r)
+	a.Side = r.Number(1)
+	a.Who = r.Number(1)
+	a.Elem = readText(r)
+	a.N = r.Number(gradeWidth)
 	return a
 }
 
-func (r *reader) text() string { return r.take(r.number(1)) }
-
-func (r *reader) number(width int) int {
-	n := 0
-	for _, b := range []byte(r.take(width)) {
-		n = n<<8 | int(b)
-	}
-	return n
-}
-
-// take gives what there is, where less is left than is asked for.
-func (r *reader) take(size int) string {
-	size = min(size, len(r.rest))
-	taken := r.rest[:size]
-	r.rest = r.rest[size:]
-	return taken
-}
+// readText gives a text of its own: a piece of what is read would keep all of that from being forgotten.
+func readText(r *wire.Reader) string { return strings.Clone(r.Take(r.Number(1))) }
