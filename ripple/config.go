@@ -2,21 +2,24 @@ package ripple
 
 import "ripple/api"
 
-// mayBe tells whether a cluster can be made by these settings (P9).
-func mayBe(c api.Config) bool {
+// links: who are neighbours, told from both sides.
+type links [api.MaxReplicas][api.MaxReplicas]bool
+
+// sizesMayBe tells whether a cluster can have so many replicas, and so much room (P9).
+func sizesMayBe(c api.Config) bool {
 	return 1 <= c.Replicas && c.Replicas <= api.MaxReplicas &&
-		1 <= c.Room && c.Room <= api.MaxRoom &&
-		edgesMayBe(c.Edges, c.Replicas)
+		1 <= c.Room && c.Room <= api.MaxRoom
 }
 
-func edgesMayBe(edges []api.Edge, replicas int) bool {
-	var linked [api.MaxReplicas][api.MaxReplicas]bool
+// link gives the links of edges between so many replicas, which must be a number that may be; false, if there is an edge that may not (P9).
+func link(edges []api.Edge, replicas int) (links, bool) {
+	var linked links
 	for _, e := range edges {
 		low, high := min(e.A, e.B), max(e.A, e.B)
 		if low < 0 || high >= replicas || low == high || linked[low][high] {
-			return false
+			return links{}, false
 		}
-		linked[low][high] = true
+		linked[low][high], linked[high][low] = true, true
 	}
-	return true
+	return linked, true
 }

@@ -37,32 +37,72 @@ func drawOp(r *rand.Rand) api.Op {
 	return op
 }
 
+// drawConfig gives settings of which each pair of replicas is neighbours more often than not.
+func drawConfig(r *rand.Rand) api.Config {
+	c := api.Config{Replicas: 1 + r.Intn(6), Room: 1 + r.Intn(8), BP: r.Intn(2) == 0, RR: r.Intn(2) == 0}
+	for _, e := range all(c.Replicas) {
+		if r.Intn(3) > 0 {
+			c.Edges = append(c.Edges, e)
+		}
+	}
+	return c
+}
+
+// step is one call, drawn ahead of being made, so that it can be made alike of several clusters.
+type step struct {
+	what, r, q, k, keep int
+	op                  api.Op
+}
+
+func drawStep(r *rand.Rand, replicas int) step {
+	s := step{what: r.Intn(28), r: r.Intn(replicas), q: r.Intn(replicas), k: r.Intn(1 << 20), keep: r.Intn(60) - 3, op: drawOp(r)}
+	if r.Intn(30) == 0 {
+		s.r = []int{-1, replicas}[r.Intn(2)]
+	}
+	if r.Intn(30) == 0 {
+		s.q = []int{-1, replicas}[r.Intn(2)]
+	}
+	return s
+}
+
+// at gives the number of a frame out of so many in flight; now and then of one that there is not.
+func (s step) at(flight int) int { return s.k%(flight+2) - s.k/1000%2 }
+
+func (p pair) do(t *testing.T, s step) {
+	t.Helper()
+	k := s.at(len(p.m.flight))
+	switch s.what {
+	case 0:
+		p.torn(t, s.r, s.op, s.keep)
+	case 1:
+		p.crash(t, s.r)
+	case 2, 3:
+		p.start(t, s.r)
+	case 4:
+		p.compact(t, s.r)
+	case 5:
+		p.reads(t, s.r, s.k%7, []string{"a", "b", "abcd", "c"}[s.k/7%4])
+	case 6:
+		p.drop(t, k)
+	case 7:
+		p.copied(t, k)
+	case 8, 9, 10, 11, 12, 13, 14:
+		p.send(t, s.r, s.q)
+	case 15, 16, 17, 18, 19, 20, 21:
+		p.deliver(t, k)
+	default:
+		p.update(t, s.r, s.op)
+	}
+}
+
 // TestDrawnCalls: whatever is called, what the cluster tells is what the model has.
 func TestDrawnCalls(t *testing.T) {
-	for seed := range int64(60) {
+	for seed := range int64(150) {
 		r := rand.New(rand.NewSource(seed))
-		c := api.Config{Replicas: 1 + r.Intn(6), Room: 1 + r.Intn(8)}
-		c.Edges = all(c.Replicas)
+		c := drawConfig(r)
 		p := fresh(t, c)
-		for range 150 {
-			at := r.Intn(c.Replicas)
-			if r.Intn(30) == 0 {
-				at = []int{-1, c.Replicas}[r.Intn(2)]
-			}
-			switch r.Intn(14) {
-			case 0:
-				p.torn(t, at, drawOp(r), r.Intn(60)-3)
-			case 1:
-				p.crash(t, at)
-			case 2, 3:
-				p.start(t, at)
-			case 4:
-				p.compact(t, at)
-			case 5:
-				p.reads(t, at, r.Intn(7), []string{"a", "b", "abcd", "c"}[r.Intn(4)])
-			default:
-				p.update(t, at, drawOp(r))
-			}
+		for range 250 {
+			p.do(t, drawStep(r, c.Replicas))
 		}
 	}
 }

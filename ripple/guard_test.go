@@ -46,6 +46,35 @@ func TestGuardedUpdates(t *testing.T) {
 	p.at(t, 1, true, 8000, 8000)
 }
 
+// scribbleFrame writes into a frame that came out, which is no other call's.
+func scribbleFrame(x *ripple.Cluster, k int) {
+	f, _ := x.Frame(k)
+	scribble(f.State, api.Atom{Type: -7})
+}
+
+// TestGuardedSends: of many frames that are sent at the same time each is counted, and what all of them bring is there in the end.
+func TestGuardedSends(t *testing.T) {
+	p := fresh(t, api.Config{Replicas: 3, Room: 3, Edges: all(3), BP: true, RR: true})
+	together(12, func(i int) {
+		r := i % 3
+		for n := range 100 {
+			p.x.Update(r, count(1))
+			if err := p.x.Send(r, (r+1+n%2)%3); err != api.OK {
+				t.Errorf("P12: Send = %d", err)
+			}
+			p.x.Deliver(0)
+			p.x.Deliver(n % 5)
+		}
+	})
+	p.settle(t, ackArrives)
+	for r := range 3 {
+		p.state(t, r, counted(0, 400), counted(1, 400), counted(2, 400))
+		if at, _ := p.x.Replica(r); at.Frames != 400+3*2 {
+			t.Errorf("P12: %d frames of replica %d are counted, not 406", at.Frames, r)
+		}
+	}
+}
+
 // TestGuardedCalls: every call at the same time as every other one, of which none ends in a panic, nor leaves a lock behind.
 func TestGuardedCalls(t *testing.T) {
 	x, _ := ripple.New(api.Config{Replicas: 3, Room: 2, Edges: all(3)})
@@ -62,7 +91,13 @@ func TestGuardedCalls(t *testing.T) {
 		func(r, n int) { x.Buffer(r) },
 		func(r, n int) { x.Log(r) },
 		func(r, n int) { x.Replica(r) },
-		func(r, n int) { x.Flight(); x.Frame(n); x.Drop(n); x.Copy(n); x.Deliver(n) },
+		func(r, n int) { x.Send(r, n%3) },
+		func(r, n int) { x.Send(r, n%4) },
+		func(r, n int) { x.Deliver(n % 7) },
+		func(r, n int) { x.Deliver(x.Flight() - 1) },
+		func(r, n int) { x.Copy(n % 5) },
+		func(r, n int) { x.Drop(n % 9) },
+		func(r, n int) { scribbleFrame(x, n%7) },
 	}
 	together(len(calls), func(i int) {
 		for n := range 300 {

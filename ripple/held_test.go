@@ -23,6 +23,12 @@ func TestCallsAreGuarded(t *testing.T) {
 		"Buffer":  func() { x.Buffer(0) },
 		"Log":     func() { x.Log(0) },
 		"Replica": func() { x.Replica(0) },
+		"Send":    func() { x.Send(0, 0) },
+		"Deliver": func() { x.Deliver(0) },
+		"Drop":    func() { x.Drop(0) },
+		"Copy":    func() { x.Copy(0) },
+		"Flight":  func() { x.Flight() },
+		"Frame":   func() { x.Frame(0) },
 	}
 	for name, call := range calls {
 		var answered atomic.Bool

@@ -25,6 +25,12 @@ func TestP2Edges(t *testing.T) {
 	}
 	scribble(edges, edge(-5, -5))
 	p.update(t, 0, count(1))
+	p.over(t, 0, 1)
+	p.over(t, 1, 2)
+	p.state(t, 2, counted(0, 1))
+	scribble(edges, edge(0, 2))
+	p.sendFails(t, 0, 2, api.ErrEdge)
+	scribble(edges, edge(-5, -5))
 	if x, err := ripple.New(api.Config{Replicas: 3, Room: 2, Edges: edges}); x != nil || err != api.ErrConfig {
 		t.Errorf("P2: New = %v, %d, with edges that are wrong by now", x, err)
 	}
@@ -132,6 +138,97 @@ func TestP2TextsAreNotKept(t *testing.T) {
 			t.Errorf("P2: a text that was handed in is kept: %v", a)
 		}
 	}
+}
+
+// flying has frames of all kinds in flight, copies with them, and an entry that was made of one of them.
+func flying(t *testing.T, c api.Config) pair {
+	t.Helper()
+	p := fresh(t, c)
+	for _, elem := range []string{"q", "p", "r"} {
+		p.update(t, 0, grow(elem))
+	}
+	p.send(t, 0, 1)
+	p.copied(t, 0)
+	p.copied(t, 0)
+	p.deliver(t, 0)
+	p.crash(t, 0)
+	p.start(t, 0)
+	p.send(t, 0, 1)
+	p.send(t, 1, 2)
+	p.copied(t, 4)
+	return p
+}
+
+// TestP2Frames: writing into a frame that was told is nothing to what is in flight, to its copies, or to the entries made of it.
+func TestP2Frames(t *testing.T) {
+	for _, c := range settings(line(false, false, 8)) {
+		p := flying(t, c)
+		atom := api.Atom{Type: -7, Key: "scribble"}
+		for k, want := range p.m.flight {
+			f, _ := p.x.Frame(k)
+			again, _ := p.x.Frame(k)
+			scribble(f.State, atom)
+			if len(f.State) > 0 && !slices.Contains(f.State, atom) {
+				t.Fatalf("the frame %v has nothing to write into", f)
+			}
+			if !sameFrame(again, want) {
+				t.Errorf("P2: two answers of Frame share room: %v", again)
+			}
+			p.m.agree(t, p.x)
+		}
+		for r := range 3 {
+			list, _ := p.x.Buffer(r)
+			for _, e := range list {
+				scribble(e.State, atom)
+			}
+			told, _ := p.x.State(r)
+			scribble(told, atom)
+			at, _ := p.x.Replica(r)
+			scribble(at.Acked, -7)
+			p.m.agree(t, p.x)
+		}
+		for p.x.Flight() > 0 {
+			p.deliver(t, 0)
+		}
+		p.state(t, 2, grown("p"), grown("q"), grown("r"))
+	}
+}
+
+// TestP2FramesStay: what was told of a frame stays, whatever becomes of it.
+func TestP2FramesStay(t *testing.T) {
+	p := flying(t, line(false, false, 2))
+	var told []api.Frame
+	for k := range p.m.flight {
+		f, _ := p.x.Frame(k)
+		told = append(told, f)
+	}
+	want := slices.Clone(p.m.flight)
+	for n := range 5 {
+		p.drop(t, 0)
+		p.update(t, 0, grow(string(rune('a'+n))))
+		p.over(t, 0, 1)
+		p.over(t, 1, 2)
+		p.send(t, 2, 1)
+	}
+	if !slices.EqualFunc(told, want, sameFrame) {
+		t.Errorf("P2: answers change: %v, not %v", told, want)
+	}
+}
+
+// TestP2NetworksKnowNothingOfOneAnother: what is sent in a cluster is in flight there alone.
+func TestP2NetworksKnowNothingOfOneAnother(t *testing.T) {
+	p, q := fresh(t, line(true, true, 2)), fresh(t, line(false, false, 2))
+	p.update(t, 0, count(3))
+	p.send(t, 0, 1)
+	q.m.agree(t, q.x)
+	q.noFrame(t, 0)
+	q.send(t, 1, 2)
+	q.drop(t, 0)
+	p.m.agree(t, p.x)
+	p.deliver(t, 0)
+	p.deliver(t, 0)
+	q.m.agree(t, q.x)
+	q.state(t, 1)
 }
 
 func TestP2ClustersKnowNothingOfOneAnother(t *testing.T) {

@@ -22,21 +22,29 @@ type modelRecord struct {
 }
 
 type modelReplica struct {
-	down         bool
-	number, base int
-	state        []api.Atom
-	buffer       []api.Entry
-	records      []modelRecord
-	torn         string // what stands behind the whole records
+	down           bool
+	number, base   int
+	state          []api.Atom
+	buffer         []api.Entry
+	acked          []int
+	records        []modelRecord
+	torn           string // what stands behind the whole records
+	frames, weight int
 }
 
 type model struct {
-	room     int
+	c        api.Config
 	replicas []modelReplica
+	flight   []api.Frame
 }
 
 func newModel(c api.Config) *model {
-	return &model{room: c.Room, replicas: make([]modelReplica, c.Replicas)}
+	c.Edges = slices.Clone(c.Edges)
+	m := &model{c: c, replicas: make([]modelReplica, c.Replicas)}
+	for r := range m.replicas {
+		m.replicas[r].acked = make([]int, c.Replicas)
+	}
+	return m
 }
 
 func recordOf(kind byte, number int, atoms []api.Atom) modelRecord {
@@ -100,20 +108,25 @@ func (m *model) update(r int, op api.Op) api.Errno {
 	if err != api.OK {
 		return err
 	}
+	m.take(r, r, []api.Atom{a})
+	return api.OK
+}
+
+func (m *model) take(r, origin int, delta []api.Atom) {
 	p := &m.replicas[r]
 	p.number++
-	p.records = append(p.records, recordOf(1, p.number, []api.Atom{a}))
-	p.state, _ = lattice.Join(p.state, []api.Atom{a})
-	p.buffer = append(p.buffer, api.Entry{Number: p.number, Origin: r, State: []api.Atom{a}})
-	if len(p.buffer) > m.room {
+	p.records = append(p.records, recordOf(1, p.number, delta))
+	p.state, _ = lattice.Join(p.state, delta)
+	p.buffer = append(p.buffer, api.Entry{Number: p.number, Origin: origin, State: delta})
+	if len(p.buffer) > m.c.Room {
 		p.base = p.buffer[0].Number
 		p.buffer = p.buffer[1:]
 	}
-	return api.OK
 }
 
 func (p *modelReplica) lose() {
 	p.down, p.number, p.base, p.state, p.buffer = true, 0, 0, nil, nil
+	p.acked = make([]int, len(p.acked))
 }
 
 func (m *model) torn(r int, op api.Op, keep int) api.Errno {
@@ -205,11 +218,22 @@ func (m *model) agree(t *testing.T, x *ripple.Cluster) {
 			t.Fatalf("P11: Log(%d) = %q, %d, not %q", r, log, err, p.log())
 		}
 		at, err := x.Replica(r)
-		if err != api.OK || at.Up == p.down || at.Number != p.number || at.Base != p.base || at.Frames != 0 || at.Weight != 0 {
+		if err != api.OK || at.Up == p.down || at.Number != p.number || at.Base != p.base {
 			t.Fatalf("P14: Replica(%d) = %+v, %d, not down %v, %d, %d", r, at, err, p.down, p.number, p.base)
 		}
-		if !slices.Equal(at.Acked, make([]int, len(m.replicas))) {
-			t.Fatalf("P14: Replica(%d) knows %v of others, with nothing sent", r, at.Acked)
+		if !slices.Equal(at.Acked, p.acked) {
+			t.Fatalf("P14: Replica(%d) knows %v of others, not %v", r, at.Acked, p.acked)
+		}
+		if at.Frames != p.frames || at.Weight != p.weight {
+			t.Fatalf("P12: Replica(%d) has sent %d frames of %d atoms, not %d of %d", r, at.Frames, at.Weight, p.frames, p.weight)
+		}
+	}
+	if n := x.Flight(); n != len(m.flight) {
+		t.Fatalf("P13: %d in flight, not %d", n, len(m.flight))
+	}
+	for k, want := range m.flight {
+		if f, err := x.Frame(k); !sameFrame(f, want) || err != api.OK {
+			t.Fatalf("P13: Frame(%d) = %+v, %d, not %+v", k, f, err, want)
 		}
 	}
 }

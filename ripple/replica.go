@@ -74,6 +74,45 @@ func (p *replica) compact() {
 	p.log = record.Record{Kind: record.Whole, Number: p.number, State: p.state.Tell()}.Bytes()
 }
 
+// news gives the kind and the state, told, of a frame with what a neighbour may not have yet (P12).
+func (p *replica) news(q int, bp bool) (int, []api.Atom) {
+	if p.acked[q] < p.base {
+		return api.FFull, p.state.Tell()
+	}
+	sum := state.Map{}
+	for _, e := range p.buffer {
+		goesBack := bp && e.Origin == q
+		if e.Number > p.acked[q] && !goesBack {
+			sum.Add(e.State)
+		}
+	}
+	return api.FDelta, sum.Tell()
+}
+
+// unknown gives what is to be taken in of a state that arrives, told: with RR just what is new, without all of it; nil, if nothing is new (P13).
+func (p *replica) unknown(arrived []api.Atom, rr bool) []api.Atom {
+	fresh := state.Map{}
+	fresh.Add(arrived)
+	fresh.Thin(p.state)
+	if rr || len(fresh) == 0 {
+		return fresh.Tell()
+	}
+	return arrived
+}
+
+// learn notes up to which Number a neighbour has everything, and gives up what all neighbours have (P13).
+func (p *replica) learn(from, upto int, neighbours [api.MaxReplicas]bool) {
+	p.acked[from] = max(p.acked[from], upto)
+	least := p.acked[from]
+	for q, acked := range p.acked {
+		if neighbours[q] {
+			least = min(least, acked)
+		}
+	}
+	p.buffer = slices.DeleteFunc(p.buffer, func(e api.Entry) bool { return e.Number <= least })
+	p.base = max(p.base, least)
+}
+
 // entries gives a copy of the buffer, down to its lists.
 func (p *replica) entries() []api.Entry {
 	var list []api.Entry
